@@ -1,0 +1,85 @@
+package quill_test
+
+import (
+	"fmt"
+	"strings"
+	"testing"
+
+	"quill/api"
+	"quill/quill"
+)
+
+// wildTexts: texts of all sorts, among them many that are nearly sources.
+func wildTexts() []string {
+	texts := []string{"", "\x00", "\xff\xfe", everyByte(), strings.Repeat("{", 400), strings.Repeat("{+a}{-}", 57), strings.Repeat("{", 1000000)}
+	whole := "{+a}<s u=\"{x}\">'{?x}\\{:}<{/}'{*r}{>b}{/}</s>{-}{+b}{yy}{-}"
+	for i := 0; i <= len(whole); i++ {
+		texts = append(texts, whole[:i], whole[i:])
+		for _, b := range []string{"{", "}", "\x00", "a", "<", "\n"} {
+			texts = append(texts, whole[:i]+b+whole[i:])
+		}
+	}
+	return texts
+}
+
+var wildNumbers = []int{-1 << 63, -1 << 31, -2, -1, 0, 1, 4, 15, 18, 19, 20, 21, 22, 23, 24, 25, 255, 1 << 31, 1<<63 - 1}
+
+// answers: what the calls answer at one text, in one line.
+func answers(text string) string {
+	e, at := quill.Check(text)
+	line := fmt.Sprint(e, at)
+	for _, n := range wildNumbers {
+		s, e := quill.Escape(n, text)
+		line += fmt.Sprintf(" %d %q %d", quill.Scan(n, text), s, e)
+	}
+	return line
+}
+
+func TestErrorsStandAlone(t *testing.T) {
+	for _, text := range wildTexts() {
+		e, at := quill.Check(text)
+		if at < 0 || at > len(text) || (e == api.OK || e == api.ErrLong) && at != 0 {
+			t.Errorf("P1: Check(%.60q) = %d, %d", text, e, at)
+		}
+		for _, n := range wildNumbers {
+			if s, e := quill.Escape(n, text); e != api.OK && s != "" {
+				t.Errorf("P1: Escape(%d, %.60q) has error %d and a text", n, text, e)
+			}
+			if x := quill.Scan(n, text); x < api.Lost || x >= api.Contexts {
+				t.Errorf("P1: Scan(%d, %.60q) = %d", n, text, x)
+			}
+		}
+	}
+}
+
+// TestAnswersDependOnArguments: the same calls, once more in the other order, answer the same.
+func TestAnswersDependOnArguments(t *testing.T) {
+	var texts, first []string
+	for _, text := range wildTexts() {
+		if len(text) <= 1000 {
+			texts = append(texts, text)
+			first = append(first, answers(text))
+		}
+	}
+	for i := len(texts) - 1; i >= 0; i-- {
+		if again := answers(texts[i]); again != first[i] {
+			t.Errorf("P2: at %.60q: first %.200s, then %.200s", texts[i], first[i], again)
+		}
+	}
+}
+
+// TestNothingIsKept: an answer stays as it was when later calls have other arguments.
+func TestNothingIsKept(t *testing.T) {
+	for _, context := range openContexts {
+		s, _ := quill.Escape(context, "a<b>'c")
+		want := strings.Clone(s)
+		for _, text := range []string{"zzzzzz", everyByte(), ""} {
+			for _, other := range openContexts {
+				quill.Escape(other, text)
+			}
+		}
+		if s != want {
+			t.Errorf("P2: Escape's answer in %d became %q, was %q", context, s, want)
+		}
+	}
+}
