@@ -24,10 +24,15 @@ func wildTexts() []string {
 
 var wildNumbers = []int{-1 << 63, -1 << 31, -2, -1, 0, 1, 4, 15, 18, 19, 20, 21, 22, 23, 24, 25, 255, 1 << 31, 1<<63 - 1}
 
+var wildNames = []string{"", "a", "b", "A", "{+a}", "aaaaaaaaa", "\x00\xff"}
+
 // answers: what the calls answer at one text, in one line.
 func answers(text string) string {
 	e, at := quill.Check(text)
 	line := fmt.Sprint(e, at)
+	for _, name := range wildNames {
+		line += " " + walksLine(text, name)
+	}
 	for _, n := range wildNumbers {
 		s, e := quill.Escape(n, text)
 		line += fmt.Sprintf(" %d %q %d", quill.Scan(n, text), s, e)
@@ -40,6 +45,12 @@ func TestErrorsStandAlone(t *testing.T) {
 		e, at := quill.Check(text)
 		if at < 0 || at > len(text) || (e == api.OK || e == api.ErrLong) && at != 0 {
 			t.Errorf("P1: Check(%.60q) = %d, %d", text, e, at)
+		}
+		for _, name := range wildNames {
+			l, we := quill.Walks(text, name)
+			if we != api.OK && len(l) != 0 || e != api.OK && we != e {
+				t.Errorf("P1: Walks(%.60q, %q) = %v, %d; Check has %d", text, name, l, we, e)
+			}
 		}
 		for _, n := range wildNumbers {
 			if s, e := quill.Escape(n, text); e != api.OK && s != "" {

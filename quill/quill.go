@@ -5,6 +5,7 @@ import (
 	"quill/api"
 	"quill/markup"
 	"quill/source"
+	"quill/walk"
 )
 
 // Check tells whether a text is a source (P3).
@@ -17,7 +18,7 @@ func Scan(context int, text string) int { return markup.Scan(context, text) }
 func Escape(context int, s string) (string, api.Errno) { return markup.Escape(context, s) }
 
 // Walks tells in which contexts one comes to the holes (P6).
-func Walks(src string, name string) ([]api.Use, api.Errno) { return nil, api.OK }
+func Walks(src string, name string) ([]api.Use, api.Errno) { return walk.Walks(src, name) }
 
 // Render makes a page (P7, P8).
 func Render(way int, src string, name string, data api.Row) (string, api.Errno) {

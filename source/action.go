@@ -18,10 +18,11 @@ const (
 
 // Action: one thing in braces. Those without a name have an empty one.
 type Action struct {
-	Kind int
-	Name string
-	At   int // the place of its {
-	Next int // the place behind its }
+	Kind  int
+	Name  string
+	At    int    // the place of its {
+	Next  int    // the place behind its }
+	Ahead string // the text between the action before it and itself
 }
 
 // actionAt reads the action that begins at a place; it is of the kind None if none does.

@@ -9,11 +9,12 @@ type state struct {
 	open      []int // Choice, Else (a choice behind its {:}) or Loop, the innermost last
 }
 
-// Read answers the actions of a source, in their order; or the place of what is wrong first, and false.
-func Read(src string) ([]Action, int, bool) {
+// readActions answers the actions of a source, in their order; or the place of what is wrong first, and false.
+func readActions(src string) ([]Action, int, bool) {
 	var actions []Action
 	var s state
 	at := 0
+	textFrom := 0
 	for at < len(src) {
 		if s.inBody && src[at] != '{' && src[at] != '}' {
 			at++
@@ -24,8 +25,10 @@ func Read(src string) ([]Action, int, bool) {
 		if !fits {
 			return nil, at, false
 		}
+		action.Ahead = src[textFrom:at]
 		actions = append(actions, action)
 		at = action.Next
+		textFrom = at
 	}
 	if s.inBody || s.templates == 0 {
 		return nil, len(src), false
