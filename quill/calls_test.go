@@ -26,18 +26,51 @@ var wildNumbers = []int{-1 << 63, -1 << 31, -2, -1, 0, 1, 4, 15, 18, 19, 20, 21,
 
 var wildNames = []string{"", "a", "b", "A", "{+a}", "aaaaaaaaa", "\x00\xff"}
 
+// wildData: data of all sorts, some of them with what no source can ask for.
+var wildData = []api.Row{
+	{}, {Fields: []api.Field{{}, {}}}, {Fields: []api.Field{{Name: "x"}, {Name: "r", List: true}, {Name: "yy", List: true, Text: "1"}}},
+	{Fields: []api.Field{{Name: "x", Text: `</s>'\`}, {Name: "yy", Text: "'"}, {Name: "r", List: true, Rows: []api.Row{{}, {Fields: []api.Field{{Name: "yy", Text: "<"}}}}}}},
+	{Fields: []api.Field{{Name: "x", Text: strings.Repeat("\xff", 5000)}, {Name: "yy", List: true, Rows: make([]api.Row, 5)}, {Name: "r", List: true, Rows: make([]api.Row, 1000)}}},
+	{Fields: []api.Field{{Name: "x", Text: "1", Rows: make([]api.Row, 5)}, {Name: "yy", Text: "2"}, {Name: "r", List: true, Rows: make([]api.Row, 300)}}},
+}
+
 // answers: what the calls answer at one text, in one line.
 func answers(text string) string {
 	e, at := quill.Check(text)
 	line := fmt.Sprint(e, at)
 	for _, name := range wildNames {
 		line += " " + walksLine(text, name)
+		for _, data := range wildData {
+			for way := -1; way < 3; way++ {
+				line += " " + renderLine(way, text, name, data)
+			}
+		}
 	}
 	for _, n := range wildNumbers {
 		s, e := quill.Escape(n, text)
 		line += fmt.Sprintf(" %d %q %d", quill.Scan(n, text), s, e)
 	}
 	return line
+}
+
+// tryRenderStandsAlone: with an error there is no page, and those named first come first.
+func tryRenderStandsAlone(t *testing.T, text, name string, data api.Row) {
+	t.Helper()
+	e, _ := quill.Check(text)
+	_, we := quill.Walks(text, name)
+	for _, way := range wildNumbers {
+		s, re := quill.Render(way, text, name, data)
+		want := e
+		if want == api.OK && way != 0 && way != 1 {
+			want = api.ErrArg
+		}
+		if want == api.OK && (we == api.ErrName || way == api.Fixed) {
+			want = we
+		}
+		if re != api.OK && s != "" || len(s) > 2000 || want != api.OK && re != want {
+			t.Errorf("P1: Render(%d, %.60q, %q) = %.60q, %d, want %d", way, text, name, s, re, want)
+		}
+	}
 }
 
 func TestErrorsStandAlone(t *testing.T) {
@@ -50,6 +83,9 @@ func TestErrorsStandAlone(t *testing.T) {
 			l, we := quill.Walks(text, name)
 			if we != api.OK && len(l) != 0 || e != api.OK && we != e {
 				t.Errorf("P1: Walks(%.60q, %q) = %v, %d; Check has %d", text, name, l, we, e)
+			}
+			for _, data := range wildData {
+				tryRenderStandsAlone(t, text, name, data)
 			}
 		}
 		for _, n := range wildNumbers {

@@ -4,6 +4,7 @@ package quill
 import (
 	"quill/api"
 	"quill/markup"
+	"quill/page"
 	"quill/source"
 	"quill/walk"
 )
@@ -22,5 +23,5 @@ func Walks(src string, name string) ([]api.Use, api.Errno) { return walk.Walks(s
 
 // Render makes a page (P7, P8).
 func Render(way int, src string, name string, data api.Row) (string, api.Errno) {
-	return "", api.OK
+	return page.Render(way, src, name, data)
 }
